@@ -137,6 +137,38 @@ func TestChunksAreOnlyRead(t *testing.T) {
 	}
 }
 
+// Z2: a copy of a chunk, whatever its kind, has all that the chunk has, and changes neither with it nor it.
+func TestOwn(t *testing.T) {
+	full := func(kind int) api.Chunk {
+		return api.Chunk{Kind: kind, Tag: -1, Stream: 2, Mid: 3, Part: 4, Last: true, Ordered: true, Room: 5,
+			Data: []byte{1, 2, 77}[:2], Spans: []api.Span{{From: 2, To: 3}, {From: 77}}[:1], Skips: []api.Skip{{Stream: 1, Mid: 2}, {Stream: 77}}[:1]}
+	}
+	overwrite := func(c api.Chunk) {
+		copy(c.Data[:cap(c.Data)], []byte{200, 200, 200})
+		copy(c.Spans[:cap(c.Spans)], []api.Span{{From: 200}, {From: 200}})
+		copy(c.Skips[:cap(c.Skips)], []api.Skip{{Mid: 200}, {Mid: 200}})
+	}
+	for kind := range 5 {
+		c := full(kind)
+		got := Own(c)
+		if !same(got, full(kind)) {
+			t.Errorf("Own(%+v) = %+v", full(kind), got)
+		}
+		overwrite(got)
+		if !same(c, full(kind)) || c.Data[:3][2] != 77 || c.Spans[:2][1].From != 77 || c.Skips[:2][1].Stream != 77 {
+			t.Errorf("with its copy %+v changes", c)
+		}
+		got = Own(c)
+		overwrite(c)
+		if !same(got, full(kind)) {
+			t.Errorf("with what was copied %+v changes", got)
+		}
+	}
+	if got := Own(api.Chunk{}); !same(got, api.Chunk{}) {
+		t.Errorf("a copy of nothing is %+v", got)
+	}
+}
+
 // Z2: bytes and the spare room behind them are neither changed nor kept, and what is answered is the caller's.
 func TestBytesAreOnlyRead(t *testing.T) {
 	for _, x := range told {
