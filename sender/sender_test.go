@@ -509,6 +509,28 @@ func TestMostOut(t *testing.T) {
 	is(t, "the last one of all", r.s.Next, 61)
 }
 
+// I2 and I3: a part more may be one more than MaxOut are; nothing new goes until there are fewer.
+func TestMoreThanMostOut(t *testing.T) {
+	c := api.Config{Streams: 1, Part: 1, Packet: 120, Paths: 1, Turns: 1, Waiting: 3}
+	r := begin(t, c, ordered(0, strings.Repeat("a", 58)), brief(ordered(0, "bcdef"), 1), ordered(0, "gh"))
+	for n := 0; len(r.s.Out) < 60 && n < 100; n++ {
+		r.s, _ = Pump(r.s)
+		r.hear(sack(65535, 400, api.Span{From: 2, To: r.s.Next}))
+	}
+	is(t, "what is left of the second message", r.s.Queue[0].Sent, 2)
+	r.ticks(1)
+	r.pump()
+	r.fates(1, 3, 1)
+	is(t, "how many are out with the part more", len(r.s.Out), 61)
+	is(t, "whether the path is open", paths.Open(r.s.Paths[0]), true)
+	r.hear(sack(0, 400, api.Span{From: 2, To: 59}))
+	r.pump("0 >60,0/1")
+	is(t, "how many are out when the first has come", len(r.s.Out), 60)
+	r.hear(sack(1, 400))
+	r.pump("0 >60,0/1 61=0/2.0:g")
+	is(t, "how many are out then", len(r.s.Out), 60)
+}
+
 // I3: messages are numbered by streams, ordered ones and others each for themselves, when their first part is handed on; tags go round.
 func TestMids(t *testing.T) {
 	c := api.Config{Streams: 2, Part: 2, Packet: 120, Paths: 1, Turns: api.TurnsRank, Waiting: 12, First: 65533}
